@@ -7,141 +7,29 @@ import (
 	"slices"
 	"strings"
 	"testing"
-	"unicode/utf8"
 	"unsafe"
 
 	"foolscap/api"
 	"foolscap/excl"
 	"foolscap/incl"
+	"foolscap/model"
 )
 
 // The limits, as the chapters write them out.
 const (
-	maxText  = 200
-	maxCells = 20000
-	maxSites = 16
-	maxNum   = 1099511627776
+	maxCells = model.MaxCells
+	maxSites = model.MaxSites
+	maxNum   = model.MaxNum
 )
 
-// list makes spans of pairs of numbers.
-func list(numbers ...int) []api.Span {
-	var l []api.Span
-	for i := 0; i < len(numbers); i += 2 {
-		l = append(l, api.Span{From: numbers[i], Len: numbers[i+1]})
-	}
-	return l
-}
-
-// name makes a name.
-func name(site, seq int) api.Name {
-	return api.Name{Site: site, Seq: seq}
-}
-
-// insertion makes an operation that inserts.
-func insertion(n api.Name, num, at int, text string) api.Op {
-	return api.Op{Name: n, Num: num, Kind: api.Ins, At: at, Text: text}
-}
-
-// deletion makes an operation that deletes.
-func deletion(n api.Name, num int, numbers ...int) api.Op {
-	return api.Op{Name: n, Num: num, Kind: api.Del, Spans: list(numbers...)}
-}
-
-// runesOf tells how many runes a text has, -1 of what is none.
-func runesOf(s string) int {
-	if !utf8.ValidString(s) {
-		return -1
-	}
-	return utf8.RuneCountInString(s)
-}
-
-// end tells where a list of spans ends; far behind all, if it may not be.
-func end(l []api.Span) int {
-	at := -1
-	for _, s := range l {
-		if s.From <= at || s.Len < 1 || s.From >= maxCells || s.Len > maxCells-s.From {
-			return math.MaxInt
-		}
-		at = s.From + s.Len
-	}
-	return max(at, 0)
-}
-
-// mayUpon follows chapter 8's words.
-func mayUpon(op api.Op, size int) bool {
-	n := op.Name
-	if size < 0 || size > maxCells || n.Site < 1 || n.Site > maxSites || n.Seq < 1 || n.Seq > maxNum || op.Num < 0 || op.Num > maxNum {
-		return false
-	}
-	switch op.Kind {
-	case 1:
-		long := runesOf(op.Text)
-		return op.At >= 0 && op.At <= size && long >= 1 && long <= maxText && len(op.Spans) == 0 && size+long <= maxCells
-	case 2:
-		return op.At == 0 && op.Text == "" && end(op.Spans) <= size
-	}
-	return false
-}
-
-// before follows chapter 8's words.
-func before(a, b api.Op) bool {
-	numOf := func(op api.Op) int {
-		if op.Num == 0 {
-			return math.MaxInt
-		}
-		return op.Num
-	}
-	if numOf(a) != numOf(b) {
-		return numOf(a) < numOf(b)
-	}
-	if a.Name.Site != b.Name.Site {
-		return a.Name.Site < b.Name.Site
-	}
-	return a.Name.Seq < b.Name.Seq
-}
-
-// adds tells how many cells an operation adds that may be.
-func adds(op api.Op) int {
-	if op.Kind == 1 {
-		return runesOf(op.Text)
-	}
-	return 0
-}
-
-// with lays a place behind the others of a list.
-func with(l []api.Span, p int) []api.Span {
-	if k := len(l) - 1; k >= 0 && l[k].From+l[k].Len == p {
-		l[k].Len++
-		return l
-	}
-	return append(l, api.Span{From: p, Len: 1})
-}
-
-// behind follows chapter 9's words: a as it is behind b, of two upon one document.
-func behind(a, b api.Op) api.Op {
-	if b.Kind == 2 {
-		return a
-	}
-	n, q := runesOf(b.Text), b.At
-	if a.Kind == 1 {
-		if a.At > q || a.At == q && before(b, a) {
-			a.At += n
-		}
-		return a
-	}
-	var l []api.Span
-	for _, s := range a.Spans {
-		for p := s.From; p < s.From+s.Len; p++ {
-			if p < q {
-				l = with(l, p)
-			} else {
-				l = with(l, p+n)
-			}
-		}
-	}
-	a.Spans = l
-	return a
-}
+// What the tests take from the model, in short.
+var (
+	list, name, insertion, deletion = model.List, model.Name, model.Insertion, model.Deletion
+	mayUpon, adds, runesOf, before  = model.MayUpon, model.Adds, model.RunesOf, model.Before
+	behind, hangs, torn             = model.Behind, model.Hangs, model.Torn
+	alike, same, short              = model.Alike, model.SameSpans, model.Short
+	blank, play, subsets, each      = model.Blank, model.Play, model.Subsets, model.Each
+)
 
 // isBehind follows the chapter's words.
 func isBehind(a, b api.Op, size int) bool {
@@ -149,58 +37,6 @@ func isBehind(a, b api.Op, size int) bool {
 		return false
 	}
 	return mayUpon(a, size+adds(b))
-}
-
-// hangs follows the chapter's words: of a behind b.
-func hangs(a, b api.Op) bool {
-	if b.Kind == 2 {
-		return false
-	}
-	p, q, n := a.At, b.At, runesOf(b.Text)
-	if a.Kind == 1 {
-		return p > q && p < q+n || p == q && before(b, a) || p == q+n && before(a, b)
-	}
-	for _, s := range a.Spans {
-		for p := s.From; p < s.From+s.Len; p++ {
-			if p >= q && p < q+n {
-				return true
-			}
-		}
-	}
-	return false
-}
-
-// torn follows the chapter's words: of a behind b, place by place.
-func torn(a, b api.Op) (api.Op, []api.Span) {
-	if b.Kind == 2 {
-		return a, nil
-	}
-	p, q, n := a.At, b.At, runesOf(b.Text)
-	if a.Kind == 1 {
-		if hangs(a, b) {
-			a.At = q
-			return a, list(p-q, 0)
-		}
-		if p > q {
-			a.At = p - n
-		}
-		return a, nil
-	}
-	var free, lost []api.Span
-	for _, s := range a.Spans {
-		for p := s.From; p < s.From+s.Len; p++ {
-			switch {
-			case p < q:
-				free = with(free, p)
-			case p < q+n:
-				lost = with(lost, p-q)
-			default:
-				free = with(free, p-n)
-			}
-		}
-	}
-	a.Spans = free
-	return a, lost
 }
 
 // modelTear follows P10.3's words.
@@ -235,66 +71,6 @@ func modelSwap(a, b api.Op, size int) (api.Op, api.Op, api.Errno) {
 		return api.Op{}, api.Op{}, api.ErrFull
 	}
 	return first, second, api.OK
-}
-
-// cell is one of a document that is played: which rune of which operation it is, and whether it was deleted.
-type cell struct {
-	name api.Name
-	off  int
-	r    rune
-	gone bool
-}
-
-// blank is a document of so many cells that no operation of the tests has put there.
-func blank(size int) []cell {
-	doc := make([]cell, size)
-	for i := range doc {
-		doc[i] = cell{off: i, r: '.'}
-	}
-	return doc
-}
-
-// play carries an operation out upon a document, by chapter 12's words; it makes a document of its own.
-func play(doc []cell, op api.Op) []cell {
-	next := slices.Clone(doc)
-	if op.Kind == 1 {
-		var l []cell
-		for i, r := range []rune(op.Text) {
-			l = append(l, cell{name: op.Name, off: i, r: r})
-		}
-		return slices.Insert(next, op.At, l...)
-	}
-	for _, s := range op.Spans {
-		for p := range s.Len {
-			next[s.From+p].gone = true
-		}
-	}
-	return next
-}
-
-// alike tells whether all fields of two operations are, one by one.
-func alike(a, b api.Op) bool {
-	return a.Name.Site == b.Name.Site && a.Name.Seq == b.Name.Seq && a.Num == b.Num && a.Kind == b.Kind && a.At == b.At && a.Text == b.Text && same(a.Spans, b.Spans)
-}
-
-// same tells whether two lists are, span by span.
-func same(l, m []api.Span) bool {
-	if len(l) != len(m) {
-		return false
-	}
-	for i := range l {
-		if l[i].From != m[i].From || l[i].Len != m[i].Len {
-			return false
-		}
-	}
-	return true
-}
-
-// short is an operation with no more than can be told.
-func short(op api.Op) api.Op {
-	op.Text = op.Text[:min(len(op.Text), 40)]
-	op.Spans = op.Spans[:min(len(op.Spans), 9)]
-	return op
 }
 
 // holds checks Excl and Tear of a and b, and Swap of b and a, against the model; where nothing is wrong, what follows of it, too.
@@ -363,21 +139,6 @@ func noMend(t *testing.T, free api.Op, lost []api.Span, b api.Op, size int) {
 	if op, err := excl.Mend(free, lost, b, size); !alike(op, api.Op{}) || err != api.ErrArg {
 		t.Errorf("Mend(%v, %v, %v, %d): %v, %d", short(free), lost, short(b), size, short(op), err)
 	}
-}
-
-// subsets are the lists of all sets of the places below a size.
-func subsets(size int) [][]api.Span {
-	var all [][]api.Span
-	for bits := range 1 << size {
-		var l []api.Span
-		for p := range size {
-			if bits>>p&1 == 1 {
-				l = with(l, p)
-			}
-		}
-		all = append(all, l)
-	}
-	return all
 }
 
 // upon are all operations of a name upon a small size: of some texts, of some numbers, of each set of places.
@@ -740,15 +501,6 @@ func TestNoMend(t *testing.T) {
 	}
 }
 
-// each is the list of every other place from one on, up to an end.
-func each(from, to int) []api.Span {
-	var l []api.Span
-	for p := from; p < to; p += 2 {
-		l = append(l, api.Span{From: p, Len: 1})
-	}
-	return l
-}
-
 // about are operations of a name upon a great size: at its ends, and about the cells from q on, up to an end, that stand there.
 func about(n api.Name, size, q, to int) []api.Op {
 	var l []api.Op
@@ -959,15 +711,15 @@ func TestNames(t *testing.T) {
 }
 
 // without is a document without the cells of a name.
-func without(doc []cell, n api.Name) []cell {
-	return slices.DeleteFunc(slices.Clone(doc), func(c cell) bool { return c.name == n })
+func without(doc []api.Cell, n api.Name) []api.Cell {
+	return slices.DeleteFunc(slices.Clone(doc), func(c api.Cell) bool { return c.Name == n })
 }
 
 // byCells checks of a behind b, upon a document of cells: what is free does there what a does to all but b's cells, what is lost is what it does among these, and two that are swapped leave the same cells.
-func byCells(t *testing.T, doc []cell, a, b api.Op) {
+func byCells(t *testing.T, doc []api.Cell, a, b api.Op) {
 	t.Helper()
 	size := len(doc)
-	both := play(play(doc, b), a)
+	both := play(doc, b, a)
 	free, lost, err := excl.Tear(a, b, size)
 	if err != api.OK {
 		t.Fatalf("Tear(%v, %v, %d): %d", short(a), short(b), size, err)
@@ -989,17 +741,17 @@ func byCells(t *testing.T, doc []cell, a, b api.Op) {
 		}
 		return
 	}
-	if got := play(play(doc, first), second); err != api.OK || !slices.Equal(got, both) {
+	if got := play(doc, first, second); err != api.OK || !slices.Equal(got, both) {
 		t.Fatalf("Swap(%v, %v, %d): %v, %v, %d, which leave %v", short(b), short(a), size, short(first), short(second), err, got[:min(len(got), 20)])
 	}
 }
 
 // lostByCells tells the lost part of a from the cells that b and a leave: which of b's cells are gone, or how many of them stand ahead of a's, unless they do so by the order of the two.
-func lostByCells(both []cell, a, b api.Op) []api.Span {
+func lostByCells(both []api.Cell, a, b api.Op) []api.Span {
 	var lost []api.Span
 	ahead := 0
 	for _, c := range both {
-		switch c.name {
+		switch c.Name {
 		case a.Name:
 			byOrder := ahead == 0 && before(a, b) || ahead == adds(b) && before(b, a)
 			if a.At-ahead != b.At || byOrder {
@@ -1008,8 +760,8 @@ func lostByCells(both []cell, a, b api.Op) []api.Span {
 			return list(ahead, 0)
 		case b.Name:
 			ahead++
-			if c.gone {
-				lost = with(lost, c.off)
+			if c.Gone {
+				lost = model.With(lost, c.Off)
 			}
 		}
 	}
@@ -1021,7 +773,7 @@ func TestByCells(t *testing.T) {
 	for size := range 4 {
 		doc := blank(size)
 		if size == 3 {
-			doc[1].gone = true
+			doc[1].Gone = true
 		}
 		for _, two := range twos {
 			for _, b := range upon(two[1], size, 0, 1, 2) {
@@ -1031,26 +783,6 @@ func TestByCells(t *testing.T) {
 			}
 		}
 	}
-}
-
-// random tells an operation upon a size, often at one of some places.
-func random(r *rand.Rand, n api.Name, size int, places ...int) api.Op {
-	at := func() int {
-		if p := append(places, 0, size, size/2)[r.Intn(len(places)+3)] + r.Intn(3) - 1; r.Intn(4) > 0 && p >= 0 && p <= size {
-			return p
-		}
-		return r.Intn(size + 1)
-	}
-	if r.Intn(2) == 0 {
-		return insertion(n, r.Intn(4), at(), strings.Repeat("a\u00e9\u20ac\U0001f642", 50)[:[]int{1, 3, 6, 10, 100, 500}[r.Intn(6)]])
-	}
-	op := deletion(n, r.Intn(4))
-	for p := at(); p < size && len(op.Spans) < 40; p += 1 + r.Intn(1+size/20) {
-		long := min(1+r.Intn(1+size/10), size-p)
-		op.Spans = append(op.Spans, api.Span{From: p, Len: long})
-		p += long + 1
-	}
-	return op
 }
 
 // P10.1 to P10.4: pairs upon greater documents, some cells of which are gone.
@@ -1063,11 +795,11 @@ func TestMany(t *testing.T) {
 		}
 		doc := blank(size)
 		for range r.Intn(9) {
-			doc[r.Intn(size)].gone = true
+			doc[r.Intn(size)].Gone = true
 		}
 		two := twos[i%len(twos)]
-		b := random(r, two[1], size)
-		a := random(r, two[0], size+adds(b), b.At, b.At+adds(b)/2, b.At+adds(b))
+		b := model.Picked(r.Intn, two[1], size)
+		a := model.Picked(r.Intn, two[0], size+adds(b), b.At, b.At+adds(b)/2, b.At+adds(b))
 		holds(t, a, b, size)
 		if isBehind(a, b, size) {
 			byCells(t, doc, a, b)
@@ -1081,19 +813,6 @@ func within(part, whole string) bool {
 	return part != "" && from <= at && at < from+uintptr(len(whole))
 }
 
-// shared tells whether two lists have memory in common, their spare room too.
-func shared(a, b []api.Span) bool {
-	a, b = a[:cap(a)], b[:cap(b)]
-	for i := range a {
-		for k := range b {
-			if &a[i] == &b[k] {
-				return true
-			}
-		}
-	}
-	return false
-}
-
 // roomy tells a list with spare room behind it, that is filled.
 func roomy(l []api.Span) []api.Span {
 	return append(slices.Clone(l), list(-77, -77, -77, -77, -77, -77)...)[:len(l)]
@@ -1104,7 +823,7 @@ func unshared(t *testing.T, l []api.Op) {
 	t.Helper()
 	for i, one := range l {
 		for _, other := range l[i+1:] {
-			if shared(one.Spans, other.Spans) || within(one.Text, other.Text) || within(other.Text, one.Text) {
+			if model.Shared(one.Spans, other.Spans) || within(one.Text, other.Text) || within(other.Text, one.Text) {
 				t.Errorf("%v shares memory with %v", one, other)
 			}
 		}

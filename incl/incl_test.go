@@ -6,141 +6,30 @@ import (
 	"slices"
 	"strings"
 	"testing"
-	"unicode/utf8"
 	"unsafe"
 
 	"foolscap/api"
 	"foolscap/incl"
+	"foolscap/model"
 )
 
 // The limits, as the chapters write them out.
 const (
-	maxText  = 200
-	maxCells = 20000
-	maxSites = 16
-	maxNum   = 1099511627776
+	maxCells = model.MaxCells
+	maxSites = model.MaxSites
+	maxNum   = model.MaxNum
 )
 
-// list makes spans of pairs of numbers.
-func list(numbers ...int) []api.Span {
-	var l []api.Span
-	for i := 0; i < len(numbers); i += 2 {
-		l = append(l, api.Span{From: numbers[i], Len: numbers[i+1]})
-	}
-	return l
-}
+// What the tests take from the model, in short.
+var (
+	list, name, insertion, deletion = model.List, model.Name, model.Insertion, model.Deletion
+	mayUpon, adds, runesOf, before  = model.MayUpon, model.Adds, model.RunesOf, model.Before
+	behind, alike, short            = model.Behind, model.Alike, model.Short
+	blank, play, subsets, each      = model.Blank, model.Play, model.Subsets, model.Each
+)
 
-// name makes a name.
-func name(site, seq int) api.Name {
-	return api.Name{Site: site, Seq: seq}
-}
-
-// insertion makes an operation that inserts.
-func insertion(n api.Name, num, at int, text string) api.Op {
-	return api.Op{Name: n, Num: num, Kind: api.Ins, At: at, Text: text}
-}
-
-// deletion makes an operation that deletes.
-func deletion(n api.Name, num int, numbers ...int) api.Op {
-	return api.Op{Name: n, Num: num, Kind: api.Del, Spans: list(numbers...)}
-}
-
-// runesOf tells how many runes a text has, -1 of what is none.
-func runesOf(s string) int {
-	if !utf8.ValidString(s) {
-		return -1
-	}
-	return utf8.RuneCountInString(s)
-}
-
-// end tells where a list of spans ends; far behind all, if it may not be.
-func end(l []api.Span) int {
-	at := -1
-	for _, s := range l {
-		if s.From <= at || s.Len < 1 || s.From >= maxCells || s.Len > maxCells-s.From {
-			return math.MaxInt
-		}
-		at = s.From + s.Len
-	}
-	return max(at, 0)
-}
-
-// mayUpon follows chapter 8's words.
-func mayUpon(op api.Op, size int) bool {
-	n := op.Name
-	if size < 0 || size > maxCells || n.Site < 1 || n.Site > maxSites || n.Seq < 1 || n.Seq > maxNum || op.Num < 0 || op.Num > maxNum {
-		return false
-	}
-	switch op.Kind {
-	case 1:
-		long := runesOf(op.Text)
-		return op.At >= 0 && op.At <= size && long >= 1 && long <= maxText && len(op.Spans) == 0 && size+long <= maxCells
-	case 2:
-		return op.At == 0 && op.Text == "" && end(op.Spans) <= size
-	}
-	return false
-}
-
-// before follows chapter 8's words.
-func before(a, b api.Op) bool {
-	numOf := func(op api.Op) int {
-		if op.Num == 0 {
-			return math.MaxInt
-		}
-		return op.Num
-	}
-	if numOf(a) != numOf(b) {
-		return numOf(a) < numOf(b)
-	}
-	if a.Name.Site != b.Name.Site {
-		return a.Name.Site < b.Name.Site
-	}
-	return a.Name.Seq < b.Name.Seq
-}
-
-// adds tells how many cells an operation adds that may be.
-func adds(op api.Op) int {
-	if op.Kind == 1 {
-		return runesOf(op.Text)
-	}
-	return 0
-}
-
-// opened follows chapter 7's words, place by place.
-func opened(l []api.Span, at, n int) []api.Span {
-	var m []api.Span
-	for _, s := range l {
-		for p := s.From; p < s.From+s.Len; p++ {
-			to := p
-			if p >= at {
-				to += n
-			}
-			if k := len(m) - 1; k >= 0 && m[k].From+m[k].Len == to {
-				m[k].Len++
-			} else {
-				m = append(m, api.Span{From: to, Len: 1})
-			}
-		}
-	}
-	return m
-}
-
-// behind follows the chapter's words: a as it is behind b, of two upon one document.
-func behind(a, b api.Op) api.Op {
-	if b.Kind == 2 {
-		return a
-	}
-	n, q := runesOf(b.Text), b.At
-	if a.Kind == 2 {
-		a.Spans = opened(a.Spans, q, n)
-	} else if a.At > q || a.At == q && before(b, a) {
-		a.At += n
-	}
-	return a
-}
-
-// model follows P9.1's words.
-func model(a, b api.Op, size int) (api.Op, api.Errno) {
+// modelIncl follows P9.1's words.
+func modelIncl(a, b api.Op, size int) (api.Op, api.Errno) {
 	if !mayUpon(a, size) || !mayUpon(b, size) || a.Name.Site == b.Name.Site && a.Name.Seq == b.Name.Seq {
 		return api.Op{}, api.ErrArg
 	}
@@ -162,66 +51,11 @@ func modelPoint(p int, b api.Op, size int, stays bool) (int, api.Errno) {
 	return p, api.OK
 }
 
-// cell is one of a document that is played: which rune of which operation it is, and whether it was deleted.
-type cell struct {
-	name api.Name
-	off  int
-	r    rune
-	gone bool
-}
-
-// blank is a document of so many cells that no operation of the tests has put there.
-func blank(size int) []cell {
-	doc := make([]cell, size)
-	for i := range doc {
-		doc[i] = cell{off: i, r: '.'}
-	}
-	return doc
-}
-
-// play carries an operation out upon a document, by chapter 12's words; it makes a document of its own.
-func play(doc []cell, op api.Op) []cell {
-	next := slices.Clone(doc)
-	if op.Kind == 1 {
-		var l []cell
-		for i, r := range []rune(op.Text) {
-			l = append(l, cell{name: op.Name, off: i, r: r})
-		}
-		return slices.Insert(next, op.At, l...)
-	}
-	for _, s := range op.Spans {
-		for p := range s.Len {
-			next[s.From+p].gone = true
-		}
-	}
-	return next
-}
-
-// alike tells whether all fields of two operations are, one by one.
-func alike(a, b api.Op) bool {
-	if len(a.Spans) != len(b.Spans) {
-		return false
-	}
-	for i := range a.Spans {
-		if a.Spans[i].From != b.Spans[i].From || a.Spans[i].Len != b.Spans[i].Len {
-			return false
-		}
-	}
-	return a.Name.Site == b.Name.Site && a.Name.Seq == b.Name.Seq && a.Num == b.Num && a.Kind == b.Kind && a.At == b.At && a.Text == b.Text
-}
-
-// short is an operation with no more than can be told.
-func short(op api.Op) api.Op {
-	op.Text = op.Text[:min(len(op.Text), 40)]
-	op.Spans = op.Spans[:min(len(op.Spans), 9)]
-	return op
-}
-
 // holds checks Incl of both ways round, and Meet, against the model.
 func holds(t *testing.T, a, b api.Op, size int) {
 	t.Helper()
-	wantA, errA := model(a, b, size)
-	wantB, errB := model(b, a, size)
+	wantA, errA := modelIncl(a, b, size)
+	wantB, errB := modelIncl(b, a, size)
 	if got, err := incl.Incl(a, b, size); !alike(got, wantA) || err != errA {
 		t.Fatalf("Incl(%v, %v, %d): %v, %d, not %v, %d", short(a), short(b), size, short(got), err, short(wantA), errA)
 	}
@@ -249,26 +83,6 @@ func holdsPoint(t *testing.T, p int, b api.Op, size int) {
 			t.Fatalf("Point(%d, %v, %d, %v): %d, %d, not %d, %d", p, short(b), size, stays, got, err, want, wanted)
 		}
 	}
-}
-
-// subsets are the lists of all sets of the places below a size.
-func subsets(size int) [][]api.Span {
-	var all [][]api.Span
-	for bits := range 1 << size {
-		var l []api.Span
-		for p := range size {
-			if bits>>p&1 == 0 {
-				continue
-			}
-			if k := len(l) - 1; k >= 0 && l[k].From+l[k].Len == p {
-				l[k].Len++
-			} else {
-				l = append(l, api.Span{From: p, Len: 1})
-			}
-		}
-		all = append(all, l)
-	}
-	return all
 }
 
 // upon are all operations of a name upon a small size: of two texts, of some numbers, of each set of places.
@@ -381,15 +195,6 @@ func TestSmall(t *testing.T) {
 	}
 }
 
-// each is the list of every other place from one on, up to an end.
-func each(from, to int) []api.Span {
-	var l []api.Span
-	for p := from; p < to; p += 2 {
-		l = append(l, api.Span{From: p, Len: 1})
-	}
-	return l
-}
-
 // great are operations upon great sizes, not upon all of them.
 func great(n api.Name) []api.Op {
 	var l []api.Op
@@ -468,7 +273,7 @@ func TestDeletionFits(t *testing.T) {
 			for _, l := range [][]api.Span{list(0, size), list(size-1, 1), list(0, 1, size-1, 1), each(0, size), each(1, size)} {
 				a, b := deletion(name(1, 1), 0), insertion(name(1, 2), 0, at, strings.Repeat("\u00e9", n))
 				a.Spans = l
-				if op, err := incl.Incl(a, b, size); !slices.Equal(op.Spans, opened(l, at, n)) || err != api.OK {
+				if op, err := incl.Incl(a, b, size); !slices.Equal(op.Spans, model.Opened(l, at, n)) || err != api.OK {
 					t.Errorf("%v behind %v: %v, %d", short(a), short(b), short(op), err)
 				}
 				holds(t, a, b, size+1)
@@ -626,7 +431,7 @@ func TestPointGoesWithCells(t *testing.T) {
 		for _, b := range upon(name(2, 1), size, 0, 1) {
 			after := play(doc, b)
 			at := func(off int) int {
-				return slices.IndexFunc(after, func(c cell) bool { return c.name == api.Name{} && c.off == off })
+				return slices.IndexFunc(after, func(c api.Cell) bool { return c.Name == api.Name{} && c.Off == off })
 			}
 			for p := range size {
 				if got, err := incl.Point(p, b, size, false); got != at(p) || err != api.OK {
@@ -657,10 +462,10 @@ func met(t *testing.T, a, b api.Op, size int) (api.Op, api.Op) {
 }
 
 // agree checks that two upon a document, one behind the other, leave the same, whichever goes first.
-func agree(t *testing.T, doc []cell, a, b api.Op) {
+func agree(t *testing.T, doc []api.Cell, a, b api.Op) {
 	t.Helper()
 	aBehind, bBehind := met(t, a, b, len(doc))
-	one, two := play(play(doc, a), bBehind), play(play(doc, b), aBehind)
+	one, two := play(doc, a, bBehind), play(doc, b, aBehind)
 	if !slices.Equal(one, two) {
 		t.Fatalf("%v and %v upon %d: the one first leaves %v, the other first %v", short(a), short(b), len(doc), one[:min(len(one), 20)], two[:min(len(two), 20)])
 	}
@@ -690,17 +495,17 @@ func behindBoth(t *testing.T, c, one, other api.Op, size int) api.Op {
 }
 
 // threeAgree checks that each of three comes to be the same, whichever of the two others goes first, and that all leave the same.
-func threeAgree(t *testing.T, doc []cell, a, b, c api.Op) {
+func threeAgree(t *testing.T, doc []api.Cell, a, b, c api.Op) {
 	t.Helper()
 	size := len(doc)
-	var want []cell
+	var want []api.Cell
 	for i, x := range [][3]api.Op{{a, b, c}, {b, c, a}, {c, a, b}} {
 		one, two := behindBoth(t, x[2], x[0], x[1], size), behindBoth(t, x[2], x[1], x[0], size)
 		if !alike(one, two) {
 			t.Fatalf("%v upon %d: behind %v, then %v: %v, the other way round %v", short(x[2]), size, short(x[0]), short(x[1]), short(one), short(two))
 		}
 		_, then := met(t, x[0], x[1], size)
-		got := play(play(play(doc, x[0]), then), one)
+		got := play(doc, x[0], then, one)
 		if i == 0 {
 			want = got
 		} else if !slices.Equal(got, want) {
@@ -755,7 +560,7 @@ func TestManyAgree(t *testing.T) {
 		}
 		doc := blank(size)
 		for range r.Intn(9) {
-			doc[r.Intn(size)].gone = true
+			doc[r.Intn(size)].Gone = true
 		}
 		a, b, c := random(r, name(1, 4), size), random(r, name(1, 5), size), random(r, name(2, 1), size)
 		for _, x := range [][2]api.Op{{a, b}, {a, c}, {b, c}} {
@@ -789,19 +594,6 @@ func within(part, whole string) bool {
 	return part != "" && from <= at && at < from+uintptr(len(whole))
 }
 
-// shared tells whether two lists have memory in common, their spare room too.
-func shared(a, b []api.Span) bool {
-	a, b = a[:cap(a)], b[:cap(b)]
-	for i := range a {
-		for k := range b {
-			if &a[i] == &b[k] {
-				return true
-			}
-		}
-	}
-	return false
-}
-
 // roomy tells a list with spare room behind it, that is filled.
 func roomy(l []api.Span) []api.Span {
 	return append(slices.Clone(l), list(-77, -77, -77, -77, -77, -77)...)[:len(l)]
@@ -827,7 +619,7 @@ func TestMemory(t *testing.T) {
 			l := []api.Op{x, y, z, a, b}
 			for i, one := range l[:3] {
 				for _, other := range l[i+1:] {
-					if shared(one.Spans, other.Spans) || within(one.Text, other.Text) || within(other.Text, one.Text) {
+					if model.Shared(one.Spans, other.Spans) || within(one.Text, other.Text) || within(other.Text, one.Text) {
 						t.Errorf("%v shares memory with %v", one, other)
 					}
 				}

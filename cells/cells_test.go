@@ -25,7 +25,7 @@ const (
 var (
 	list, name, insertion, deletion = model.List, model.Name, model.Insertion, model.Deletion
 	mayUpon, play, sameSpans, each  = model.MayUpon, model.Play, model.SameSpans, model.Each
-	subsets, with, short            = model.Subsets, model.With, model.Short
+	subsets, with, short, mayCell   = model.Subsets, model.With, model.Short, model.MayCell
 )
 
 // huge are numbers far from all limits.
@@ -75,13 +75,6 @@ func few(l []api.Cell) []api.Cell {
 }
 
 // model: a plain list of cells.
-
-// mayCell follows the chapter's words.
-func mayCell(c api.Cell) bool {
-	n := c.Name
-	rune := c.R >= 0 && c.R <= 0x10ffff && (c.R < 0xd800 || c.R > 0xdfff)
-	return n.Site >= 1 && n.Site <= maxSites && n.Seq >= 1 && n.Seq <= maxNum && c.Off >= 0 && c.Off < maxText && rune
-}
 
 // same tells whether two cells are of one name and one Off.
 func same(a, b api.Cell) bool {

@@ -26,30 +26,12 @@ var (
 	mayUpon, adds, behind, hangs       = model.MayUpon, model.Adds, model.Behind, model.Hangs
 	alike, alikeAll, alikeNames, short = model.Alike, model.AlikeAll, model.AlikeNames, model.Short
 	blank, play, shorts, each          = model.Blank, model.Play, model.Shorts, model.Each
+	run, modelBring                    = model.Run, model.Bring
 )
 
 // of makes a list of operations.
 func of(l ...api.Op) []api.Op {
 	return l
-}
-
-// run follows P11.1's words.
-func run(l []api.Op, size int) (int, bool) {
-	if size < 0 || size > maxCells {
-		return 0, false
-	}
-	for i, op := range l {
-		if !mayUpon(op, size) {
-			return 0, false
-		}
-		for _, other := range l[:i] {
-			if alikeNames(op.Name, other.Name) {
-				return 0, false
-			}
-		}
-		size += adds(op)
-	}
-	return size, true
 }
 
 // has tells whether one of a list has a name.
@@ -125,25 +107,6 @@ func modelExclAll(a api.Op, l []api.Op, size int) (api.Op, int, api.Errno) {
 		a, _ = model.Torn(a, l[i])
 	}
 	return a, 0, api.OK
-}
-
-// modelBring follows P11.4's words.
-func modelBring(l []api.Op, from, to, size int) ([]api.Op, api.Errno) {
-	if _, ok := run(l, size); !ok {
-		return nil, api.ErrArg
-	}
-	if from < 0 || from >= len(l) || to < 0 || to > from {
-		return nil, api.ErrRange
-	}
-	l = slices.Clone(l)
-	for p := from; p > to; p-- {
-		if hangs(l[p], l[p-1]) {
-			return nil, api.ErrLost
-		}
-		ahead, _ := model.Torn(l[p], l[p-1])
-		l[p-1], l[p] = ahead, behind(l[p-1], ahead)
-	}
-	return l, api.OK
 }
 
 // holdsRun checks Run against the model.

@@ -15,6 +15,12 @@ func Blank(size int) []api.Cell {
 	return doc
 }
 
+// MayCell follows chapter 12's words.
+func MayCell(c api.Cell) bool {
+	rune := c.R >= 0 && c.R <= 0x10ffff && (c.R < 0xd800 || c.R > 0xdfff)
+	return MayName(c.Name) && c.Off >= 0 && c.Off < MaxText && rune
+}
+
 // Play carries operations out upon a document, by chapter 12's words; it makes a document of its own.
 func Play(doc []api.Cell, l ...api.Op) []api.Cell {
 	next := slices.Clone(doc)

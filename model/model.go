@@ -1,4 +1,4 @@
-// Package model says again, in the plainest way, what the chapters say of operations upon documents. It is for the tests alone, which hold what the layers answer against it; it calls none of them.
+// Package model says again, in the plainest way, what the chapters say of operations upon documents, of edits and lists. It is for the tests alone, which hold what the layers answer against it; it calls none of them.
 package model
 
 import (
@@ -70,10 +70,39 @@ func endOf(l []api.Span) int {
 	return max(at, 0)
 }
 
+// MayName follows chapter 6's words.
+func MayName(n api.Name) bool {
+	return n.Site >= 1 && n.Site <= MaxSites && n.Seq >= 1 && n.Seq <= MaxNum
+}
+
+// MayVector follows chapter 6's words.
+func MayVector(v []int) bool {
+	for _, n := range v {
+		if n < 0 || n > MaxNum {
+			return false
+		}
+	}
+	return len(v) <= MaxSites && (len(v) == 0 || v[len(v)-1] != 0)
+}
+
+// MayEdit follows chapter 8's words.
+func MayEdit(e api.Edit) bool {
+	if !MayName(e.Name) || e.Context < 0 || e.Context > MaxNum || e.At < 0 || e.At > MaxCells {
+		return false
+	}
+	switch e.Kind {
+	case 1:
+		long := RunesOf(e.Text)
+		return e.Len == 0 && long >= 1 && long <= MaxText
+	case 2:
+		return e.Len >= 1 && e.Len <= MaxCells && e.Text == ""
+	}
+	return false
+}
+
 // MayUpon follows chapter 8's words.
 func MayUpon(op api.Op, size int) bool {
-	n := op.Name
-	if size < 0 || size > MaxCells || n.Site < 1 || n.Site > MaxSites || n.Seq < 1 || n.Seq > MaxNum || op.Num < 0 || op.Num > MaxNum {
+	if size < 0 || size > MaxCells || !MayName(op.Name) || op.Num < 0 || op.Num > MaxNum {
 		return false
 	}
 	switch op.Kind {

@@ -11,13 +11,14 @@ import (
 	"foolscap/cells"
 	"foolscap/hist"
 	"foolscap/model"
+	"foolscap/model/hists"
 )
 
 // The limits, as the chapters write them out.
 const (
 	maxText  = model.MaxText
 	maxCells = model.MaxCells
-	maxList  = 400
+	maxList  = model.MaxList
 	maxSites = model.MaxSites
 	maxNum   = model.MaxNum
 )
@@ -27,309 +28,16 @@ var (
 	list, name, insertion, deletion    = model.List, model.Name, model.Insertion, model.Deletion
 	play, alike, alikeAll, alikeNames  = model.Play, model.Alike, model.AlikeAll, model.AlikeNames
 	short, shorts, sameSpans, modelRun = model.Short, model.Shorts, model.SameSpans, model.Run
+
+	cell, entry, entries                      = hists.Cell, hists.Entry, hists.Entries
+	sample, numbered, long, wide              = hists.Sample, hists.Numbered, hists.Long, hists.Wide
+	clone, brief, opsOf, countOf              = hists.Clone, hists.Brief, hists.OpsOf, hists.CountOf
+	broken, may, reached, pendingOf, sameHist = hists.Broken, hists.May, hists.Reached, hists.PendingOf, hists.Same
+	modelAdd, modelPass, modelCut, modelMoves = hists.Add, hists.Pass, hists.Cut, hists.Moves
 )
 
 // huge are numbers far from all limits.
 var huge = []int{math.MinInt, math.MinInt + 1, math.MinInt32, -maxCells, -1, maxNum + 1, 1 << 50, math.MaxInt - 1, math.MaxInt}
-
-// cell makes a cell.
-func cell(site, seq, off int, r rune, gone bool) api.Cell {
-	return api.Cell{Name: name(site, seq), Off: off, R: r, Gone: gone}
-}
-
-// entry makes an entry of an operation, with an edit that is like none other's.
-func entry(op api.Op) api.Entry {
-	e := api.Edit{Name: op.Name, Context: op.Name.Seq, Kind: op.Kind, At: op.Name.Site}
-	switch op.Kind {
-	case api.Ins:
-		e.Text = "edit"[op.Num&1:]
-	case api.Del:
-		e.Len = 1 + op.Num%7
-	}
-	return api.Entry{Op: op, Edit: e}
-}
-
-// entries makes entries of operations.
-func entries(l ...api.Op) []api.Entry {
-	var all []api.Entry
-	for _, op := range l {
-		all = append(all, entry(op))
-	}
-	return all
-}
-
-// sample is a history as they come: of several sites, with pending entries; some of what it does is done to what it inserted.
-func sample() hist.Hist {
-	return hist.Hist{
-		Base:   []api.Cell{cell(1, 1, 0, 'a', true), cell(1, 1, 1, 'b', false), cell(2, 1, 0, 0x20ac, true), cell(2, 1, 1, 'c', true), cell(1, 1, 2, 'd', false), cell(3, 5, 7, 0x1f642, false), cell(1, 1, 3, 'e', true)},
-		Vector: []int{1, 1, 5, 0, 2},
-		From:   4,
-		Num:    12,
-		List: entries(
-			insertion(name(1, 2), 5, 2, "xyw"),
-			deletion(name(2, 2), 7, 0, 1, 3, 3),
-			insertion(name(4, 1), 8, 10, "q"),
-			insertion(name(1, 3), 11, 3, "\u00e9"),
-			insertion(name(3, 6), 0, 1, "pp"),
-			deletion(name(3, 7), 0, 2, 2, 10, 1),
-		),
-	}
-}
-
-// numbered is the sample without what is pending.
-func numbered() hist.Hist {
-	h := sample()
-	h.List = h.List[:4]
-	return h
-}
-
-// long is a history of so many entries, upon a few cells: insertions, and every fifth of them a deletion, of all sites by turns; from one on they are pending, of the site 7.
-func long(n, pending int) hist.Hist {
-	h := hist.Hist{Base: sample().Base, Vector: []int{1, 1, 5}}
-	counts := map[int]int{1: 1, 2: 1, 3: 5}
-	size := len(h.Base)
-	for i := range n {
-		site, num := 1+i%maxSites, i+1
-		if i >= pending {
-			site, num = 7, 0
-		} else {
-			h.Num = num
-		}
-		counts[site]++
-		op := insertion(name(site, counts[site]), num, i*7%(size+1), "abc"[:1+i%3])
-		if i%5 == 4 {
-			op = deletion(op.Name, num, i%size, 1)
-		}
-		size += model.Adds(op)
-		h.List = append(h.List, entry(op))
-	}
-	return h
-}
-
-// wide is a history upon so many cells of one site, each 200 of one name.
-func wide(n int) hist.Hist {
-	var h hist.Hist
-	for i := range n {
-		h.Base = append(h.Base, cell(2, 1+i/maxText, i%maxText, 'm', i%3 == 2))
-	}
-	if n > 0 {
-		h.Vector = []int{0, (n + maxText - 1) / maxText}
-	}
-	return h
-}
-
-// model: a plain list of entries.
-
-// clone tells a history in memory of its own.
-func clone(h hist.Hist) hist.Hist {
-	h.Base, h.Vector, h.List = slices.Clone(h.Base), slices.Clone(h.Vector), slices.Clone(h.List)
-	for i := range h.List {
-		h.List[i].Op.Spans = slices.Clone(h.List[i].Op.Spans)
-	}
-	return h
-}
-
-// brief is a history with no more than can be told.
-func brief(h hist.Hist) hist.Hist {
-	h = clone(h)
-	h.Base, h.List = h.Base[:min(len(h.Base), 9)], h.List[:min(len(h.List), 9)]
-	for i := range h.List {
-		h.List[i].Op = short(h.List[i].Op)
-		h.List[i].Edit.Text = ""
-	}
-	return h
-}
-
-// opsOf are the operations of entries.
-func opsOf(l []api.Entry) []api.Op {
-	var all []api.Op
-	for _, e := range l {
-		all = append(all, e.Op)
-	}
-	return all
-}
-
-// countOf tells a site's count in a vector.
-func countOf(v []int, site int) int {
-	if site < 1 || site > len(v) {
-		return 0
-	}
-	return v[site-1]
-}
-
-// mayBase follows the chapter's words, and chapter 12's.
-func mayBase(l []api.Cell) bool {
-	there := map[[3]int]bool{}
-	for _, c := range l {
-		key := [3]int{c.Name.Site, c.Name.Seq, c.Off}
-		if !model.MayCell(c) || there[key] {
-			return false
-		}
-		there[key] = true
-	}
-	return len(l) <= maxCells
-}
-
-// broken tells which of the chapter's words don't hold of a history, one by one.
-func broken(h hist.Hist) []string {
-	var all []string
-	hold := func(words string, ok bool) {
-		if !ok && !slices.Contains(all, words) {
-			all = append(all, words)
-		}
-	}
-	hold("a document of Base", mayBase(h.Base))
-	hold("a vector", model.MayVector(h.Vector))
-	for _, c := range h.Base {
-		hold("the names of Base", c.Name.Site >= 1 && c.Name.Seq >= 1 && c.Name.Seq <= countOf(h.Vector, c.Name.Site))
-	}
-	hold("From", h.From >= 0 && h.From <= h.Num)
-	hold("Num", h.Num <= maxNum)
-	hold("how many entries", len(h.List) <= maxList)
-	for _, e := range h.List {
-		hold("an edit", model.MayEdit(e.Edit))
-		hold("the operation's name", alikeNames(e.Edit.Name, e.Op.Name))
-		hold("the operation's kind", e.Edit.Kind == e.Op.Kind)
-	}
-	_, ok := modelRun(opsOf(h.List), len(h.Base))
-	hold("the operations", ok)
-	last, site := h.From, 0
-	seqs := slices.Clone(h.Vector)
-	for i, e := range h.List {
-		n := e.Op.Name
-		switch {
-		case e.Op.Num == 0:
-			hold("one site", site == 0 || n.Site == site)
-			site = n.Site
-		default:
-			hold("numbers first", i == 0 || h.List[i-1].Op.Num != 0)
-			hold("numbers above From, and rising", e.Op.Num > last)
-			hold("numbers up to Num", e.Op.Num <= h.Num)
-			last = e.Op.Num
-		}
-		if n.Site < 1 || n.Site > maxSites {
-			continue
-		}
-		for len(seqs) < n.Site {
-			seqs = append(seqs, 0)
-		}
-		hold("Seqs one above the other", n.Seq == seqs[n.Site-1]+1)
-		seqs[n.Site-1] = n.Seq
-	}
-	return all
-}
-
-// may follows the chapter's words.
-func may(h hist.Hist) bool {
-	return len(broken(h)) == 0
-}
-
-// reached follows P13.1's words, of a history that may be.
-func reached(h hist.Hist) []int {
-	v := slices.Clone(h.Vector)
-	for _, e := range h.List {
-		for len(v) < e.Op.Name.Site {
-			v = append(v, 0)
-		}
-		v[e.Op.Name.Site-1]++
-	}
-	return v
-}
-
-// pendingOf follows P13.1's words.
-func pendingOf(h hist.Hist) int {
-	n := 0
-	for _, e := range h.List {
-		if e.Op.Num == 0 {
-			n++
-		}
-	}
-	return n
-}
-
-// sameHist tells whether all fields of two histories are alike, one by one.
-func sameHist(a, b hist.Hist) bool {
-	if a.From != b.From || a.Num != b.Num || !slices.Equal(a.Vector, b.Vector) || len(a.Base) != len(b.Base) || len(a.List) != len(b.List) {
-		return false
-	}
-	for i, c := range a.Base {
-		d := b.Base[i]
-		if !alikeNames(c.Name, d.Name) || c.Off != d.Off || c.R != d.R || c.Gone != d.Gone {
-			return false
-		}
-	}
-	for i, e := range a.List {
-		d, f := e.Edit, b.List[i].Edit
-		if !alike(e.Op, b.List[i].Op) || !alikeNames(d.Name, f.Name) || d.Context != f.Context || d.Kind != f.Kind || d.At != f.At || d.Len != f.Len || d.Text != f.Text {
-			return false
-		}
-	}
-	return true
-}
-
-// modelAdd follows P13.2's words.
-func modelAdd(h hist.Hist, e api.Entry) (hist.Hist, api.Errno) {
-	if !may(h) {
-		return hist.Hist{}, api.ErrArg
-	}
-	if len(h.List) == maxList {
-		return hist.Hist{}, api.ErrHistory
-	}
-	if e.Op.Num != 0 && pendingOf(h) > 0 {
-		return hist.Hist{}, api.ErrState
-	}
-	if e.Op.Num != 0 && e.Op.Num != h.Num+1 {
-		return hist.Hist{}, api.ErrOrder
-	}
-	h = clone(h)
-	h.List = append(h.List, e)
-	if e.Op.Num != 0 {
-		h.Num = e.Op.Num
-	}
-	if !may(h) {
-		return hist.Hist{}, api.ErrArg
-	}
-	return h, api.OK
-}
-
-// modelPass follows P13.2's words.
-func modelPass(h hist.Hist) (hist.Hist, api.Errno) {
-	switch {
-	case !may(h):
-		return hist.Hist{}, api.ErrArg
-	case h.Num == maxNum:
-		return hist.Hist{}, api.ErrEnd
-	}
-	h.Num++
-	return h, api.OK
-}
-
-// modelCut follows P13.2's words.
-func modelCut(h hist.Hist) hist.Hist {
-	if !may(h) {
-		return hist.Hist{}
-	}
-	h = clone(h)
-	h.List = slices.DeleteFunc(h.List, func(e api.Entry) bool { return e.Op.Num == 0 })
-	return h
-}
-
-// modelMoves follows P13.3's words.
-func modelMoves(h hist.Hist, from, to int) ([][]api.Op, api.Errno) {
-	if !may(h) {
-		return nil, api.ErrArg
-	}
-	l := opsOf(h.List)
-	if _, err := model.Bring(l, from, to, len(h.Base)); err != api.OK {
-		return nil, err
-	}
-	all := [][]api.Op{l}
-	for p := from; p > to; p-- {
-		l, _ = model.Bring(l, p, p-1, len(h.Base))
-		all = append(all, l)
-	}
-	return all, api.OK
-}
 
 // checks.
 
@@ -582,50 +290,6 @@ func TestFew(t *testing.T) {
 	}
 }
 
-// randomly makes a history that may be: its Base is what some operations left, and of that not all.
-func randomly(r *rand.Rand) hist.Hist {
-	counts := make([]int, maxSites)
-	sites := 1 + r.Intn(4)
-	next := func(site int) api.Name {
-		counts[site-1]++
-		return name(site, counts[site-1])
-	}
-	var h hist.Hist
-	for range r.Intn(5) {
-		h.Base = play(h.Base, model.Picked(r.Intn, next(1+r.Intn(sites)), len(h.Base)))
-	}
-	h.Base = slices.DeleteFunc(h.Base, func(c api.Cell) bool { return r.Intn(3) == 0 && (c.Gone || r.Intn(3) == 0) })
-	for i := range counts {
-		counts[i] += r.Intn(2) * r.Intn(2)
-	}
-	h.Vector = slices.Clone(counts)
-	for n := len(h.Vector); n > 0 && h.Vector[n-1] == 0; n-- {
-		h.Vector = h.Vector[:n-1]
-	}
-	h.From = r.Intn(4)
-	h.Num = h.From
-	size, at := len(h.Base), []int(nil)
-	add := func(n api.Name, num int) {
-		op := model.Picked(r.Intn, n, size, at...)
-		op.Num = num
-		size += model.Adds(op)
-		if op.Kind == api.Ins {
-			at = append(at, op.At, op.At+model.Adds(op))
-		}
-		h.List = append(h.List, entry(op))
-	}
-	for range r.Intn(6) {
-		h.Num += 1 + r.Intn(3)*r.Intn(2)
-		add(next(1+r.Intn(sites)), h.Num)
-	}
-	h.Num += r.Intn(2) * r.Intn(3)
-	site := 1 + r.Intn(maxSites)
-	for range r.Intn(4) * r.Intn(2) {
-		add(next(site), 0)
-	}
-	return h
-}
-
 // nudged tells a number that is changed a bit, or a lot.
 func nudged(r *rand.Rand, n int) int {
 	switch r.Intn(6) {
@@ -679,7 +343,7 @@ func TestMany(t *testing.T) {
 	mayBe, mayNot := 0, 0
 	for seed := range int64(400) {
 		r := rand.New(rand.NewSource(seed))
-		h := randomly(r)
+		h := hists.Randomly(r.Intn)
 		if !may(h) {
 			t.Fatal(seed, broken(h))
 		}
@@ -727,7 +391,7 @@ func randomEntry(r *rand.Rand, h hist.Hist) api.Entry {
 func TestGrow(t *testing.T) {
 	for seed := range int64(20) {
 		r := rand.New(rand.NewSource(seed))
-		h := randomly(r)
+		h := hists.Randomly(r.Intn)
 		for k := range 60 {
 			switch pick := r.Intn(9); {
 			case pick == 0:

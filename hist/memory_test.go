@@ -7,17 +7,8 @@ import (
 
 	"foolscap/api"
 	"foolscap/hist"
-	"foolscap/model"
+	"foolscap/model/hists"
 )
-
-// roomy tells a list with spare room behind it that is filled with a thing.
-func roomy[T any](l []T, thing T) []T {
-	room := slices.Clone(l)
-	for range 9 {
-		room = append(room, thing)
-	}
-	return room[:len(l)]
-}
 
 // ink writes texts into bytes that can be written over.
 type ink struct {
@@ -54,98 +45,18 @@ func (i *ink) blot() {
 	}
 }
 
-// spareCell, spareEntry and spareSpan fill spare room.
-var (
-	spareCell  = api.Cell{Name: api.Name{Site: -7, Seq: -7}, Off: -7, R: -7, Gone: true}
-	spareSpan  = api.Span{From: -7, Len: -7}
-	spareEntry = api.Entry{Op: api.Op{Num: -7}, Edit: api.Edit{At: -7}}
-)
-
-// roomyEntry tells an entry with spare room behind its spans, and texts in ink.
-func roomyEntry(i *ink, e api.Entry) api.Entry {
-	e.Op.Spans = roomy(e.Op.Spans, spareSpan)
-	e.Op.Text, e.Edit.Text = i.text(e.Op.Text), i.text(e.Edit.Text)
-	return e
-}
-
-// roomyHist tells a history with spare room behind each of its lists, and texts in ink.
-func roomyHist(i *ink, h hist.Hist) hist.Hist {
-	h.Base, h.Vector, h.List = roomy(h.Base, spareCell), roomy(h.Vector, -7), roomy(h.List, spareEntry)
-	for k := range h.List {
-		h.List[k] = roomyEntry(i, h.List[k])
-	}
-	return h
-}
-
-// room is a history with what lies behind its lists, within their arrays, in memory of its own.
-func room(h hist.Hist) hist.Hist {
-	h.Base, h.Vector, h.List = slices.Clone(h.Base[:cap(h.Base)]), slices.Clone(h.Vector[:cap(h.Vector)]), slices.Clone(h.List[:cap(h.List)])
-	for i := range h.List {
-		spans := h.List[i].Op.Spans
-		h.List[i].Op.Spans = slices.Clone(spans[:cap(spans)])
-	}
-	return h
-}
-
-// told is all that was answered.
-type told struct {
-	cells   [][]api.Cell
-	numbers [][]int
-	entries [][]api.Entry
-	ops     [][]api.Op
-	spans   [][]api.Span
-}
-
-// hist takes in what a history holds.
-func (x *told) hist(h hist.Hist) {
-	x.cells, x.numbers, x.entries = append(x.cells, h.Base), append(x.numbers, h.Vector), append(x.entries, h.List)
-	for _, e := range h.List {
-		x.spans = append(x.spans, e.Op.Spans)
-	}
-}
-
-// list takes in operations.
-func (x *told) list(l []api.Op) {
-	x.ops = append(x.ops, l)
-	for _, op := range l {
-		x.spans = append(x.spans, op.Spans)
-	}
-}
-
-// anyShared tells whether two of some lists have memory in common.
-func anyShared[T any](all [][]T) bool {
-	for i := range all {
-		for k := range i {
-			if model.Shared(all[i], all[k]) {
-				return true
-			}
-		}
-	}
-	return false
-}
-
-// blotAll writes over lists, their spare room too.
-func blotAll[T any](all [][]T, thing T) {
-	for _, l := range all {
-		l = l[:cap(l)]
-		for i := range l {
-			l[i] = thing
-		}
-	}
-}
-
 // askAll asks all that tells lists of a history; what is told goes into x.
-func askAll(t *testing.T, x *told, h hist.Hist, e api.Entry) (hist.Hist, hist.Hist, hist.Hist, [][]api.Op) {
+func askAll(t *testing.T, x *hists.Told, h hist.Hist, e api.Entry) (hist.Hist, hist.Hist, hist.Hist, [][]api.Op) {
 	t.Helper()
-	x.list(hist.Ops(h))
+	x.List(hist.Ops(h))
 	v, _ := hist.Reach(h)
-	x.numbers = append(x.numbers, v)
+	x.Numbers = append(x.Numbers, v)
 	for _, k := range []int{0, len(h.List)} {
 		d, err := hist.Replay(h, k)
 		if err != api.OK {
 			t.Fatal(err)
 		}
-		x.cells = append(x.cells, d.Cells())
+		x.Cells = append(x.Cells, d.Cells())
 	}
 	added, err := hist.Add(h, e)
 	if err != api.OK {
@@ -157,14 +68,14 @@ func askAll(t *testing.T, x *told, h hist.Hist, e api.Entry) (hist.Hist, hist.Hi
 	}
 	cut := hist.Cut(h)
 	for _, h := range []hist.Hist{added, passed, cut} {
-		x.hist(h)
+		x.Hist(h)
 	}
 	moves, err := hist.Moves(h, 4, 0)
 	if err != api.OK {
 		t.Fatal(err)
 	}
 	for _, l := range moves {
-		x.list(l)
+		x.List(l)
 	}
 	return added, passed, cut, moves
 }
@@ -173,11 +84,11 @@ func askAll(t *testing.T, x *told, h hist.Hist, e api.Entry) (hist.Hist, hist.Hi
 func TestHandedIn(t *testing.T) {
 	for _, op := range []api.Op{insertion(name(3, 8), 0, 3, "mine"), deletion(name(3, 8), 0, 1, 2, 8, 3)} {
 		var i ink
-		h := roomyHist(&i, sample())
-		e := roomyEntry(&i, entry(op))
-		was := room(h)
+		h := hists.RoomyHist(i.text, sample())
+		e := hists.RoomyEntry(i.text, entry(op))
+		was := hists.Room(h)
 		spansWas := slices.Clone(e.Op.Spans[:cap(e.Op.Spans)])
-		var x told
+		var x hists.Told
 		added, passed, cut, moves := askAll(t, &x, h, e)
 		d, _ := hist.Replay(h, 5)
 		ops := hist.Ops(h)
@@ -188,16 +99,13 @@ func TestHandedIn(t *testing.T) {
 		hist.Same(h, added)
 		hist.May(h)
 		hist.Pending(h)
-		if !sameHist(room(h), was) || !sameSpans(e.Op.Spans[:cap(e.Op.Spans)], spansWas) || !i.same() {
+		if !sameHist(hists.Room(h), was) || !sameSpans(e.Op.Spans[:cap(e.Op.Spans)], spansWas) || !i.same() {
 			t.Fatal("what was handed in is changed")
 		}
-		x = told{}
-		x.hist(h)
-		x.spans = append(x.spans, e.Op.Spans)
-		blotAll(x.spans, api.Span{From: -8, Len: -8})
-		blotAll(x.cells, api.Cell{Off: -8})
-		blotAll(x.numbers, -8)
-		blotAll(x.entries, api.Entry{Op: api.Op{At: -8, Text: "no"}})
+		x = hists.Told{}
+		x.Hist(h)
+		x.Spans = append(x.Spans, e.Op.Spans)
+		x.Blot()
 		i.blot()
 		if !sameHist(added, wantAdded) || !sameHist(passed, wantPassed) || !sameHist(cut, modelCut(sample())) {
 			t.Error("a history that was told is changed")
@@ -215,23 +123,19 @@ func TestHandedIn(t *testing.T) {
 func TestTold(t *testing.T) {
 	for _, op := range []api.Op{insertion(name(3, 8), 0, 3, "mine"), deletion(name(3, 8), 0, 1, 2, 8, 3)} {
 		h, e := sample(), entry(op)
-		var x told
+		var x hists.Told
 		for range 2 {
 			askAll(t, &x, h, e)
 		}
-		x.hist(h)
-		x.spans = append(x.spans, e.Op.Spans)
-		if anyShared(x.cells) || anyShared(x.numbers) || anyShared(x.entries) || anyShared(x.ops) || anyShared(x.spans) {
+		x.Hist(h)
+		x.Spans = append(x.Spans, e.Op.Spans)
+		if x.AnyShared() {
 			t.Error("memory is shared")
 		}
-		h, x = sample(), told{}
+		h, x = sample(), hists.Told{}
 		e = entry(op)
 		askAll(t, &x, h, e)
-		blotAll(x.spans, api.Span{From: -8, Len: -8})
-		blotAll(x.cells, api.Cell{Off: -8})
-		blotAll(x.numbers, -8)
-		blotAll(x.entries, api.Entry{Op: api.Op{At: -8, Text: "no"}})
-		blotAll(x.ops, api.Op{At: -8, Text: "no"})
+		x.Blot()
 		if !sameHist(h, sample()) || !alike(e.Op, op) {
 			t.Error("what was handed in is changed by way of what was told")
 		}
@@ -253,14 +157,14 @@ func TestToldEmpty(t *testing.T) {
 	}
 	passed, _ := hist.Pass(h)
 	v, _ := hist.Reach(h)
-	var x told
-	x.list(hist.Ops(added))
+	var x hists.Told
+	x.List(hist.Ops(added))
 	for _, h := range []hist.Hist{h, added, again, passed, hist.Cut(h), hist.Cut(again)} {
-		x.hist(h)
+		x.Hist(h)
 	}
-	x.numbers = append(x.numbers, v)
-	x.spans = append(x.spans, del.Spans)
-	if anyShared(x.cells) || anyShared(x.numbers) || anyShared(x.entries) || anyShared(x.spans) {
+	x.Numbers = append(x.Numbers, v)
+	x.Spans = append(x.Spans, del.Spans)
+	if x.AnyShared() {
 		t.Error("memory is shared")
 	}
 }

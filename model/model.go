@@ -14,6 +14,7 @@ const (
 	MaxCells = 20000
 	MaxSites = 16
 	MaxNum   = 1099511627776
+	MaxList  = 400
 )
 
 // RunesOf tells how many runes a text has, -1 of what is none.

@@ -43,8 +43,7 @@ func deletes(n api.Name, context, at, long int) api.Edit {
 
 // sameEntry tells whether all fields of two entries are alike, one by one.
 func sameEntry(a, b api.Entry) bool {
-	d, f := a.Edit, b.Edit
-	return alike(a.Op, b.Op) && model.AlikeNames(d.Name, f.Name) && d.Context == f.Context && d.Kind == f.Kind && d.At == f.At && d.Len == f.Len && d.Text == f.Text
+	return hists.AlikeEntries(a, b)
 }
 
 // shortEdit is an edit with no more than can be told.

@@ -147,13 +147,17 @@ func Same(a, b hist.Hist) bool {
 			return false
 		}
 	}
-	for i, e := range a.List {
-		d, f := e.Edit, b.List[i].Edit
-		if !model.Alike(e.Op, b.List[i].Op) || !model.AlikeNames(d.Name, f.Name) || d.Context != f.Context || d.Kind != f.Kind || d.At != f.At || d.Len != f.Len || d.Text != f.Text {
-			return false
-		}
-	}
-	return true
+	return slices.EqualFunc(a.List, b.List, AlikeEntries)
+}
+
+// AlikeEdits tells whether all fields of two edits are, one by one.
+func AlikeEdits(d, f api.Edit) bool {
+	return model.AlikeNames(d.Name, f.Name) && d.Context == f.Context && d.Kind == f.Kind && d.At == f.At && d.Len == f.Len && d.Text == f.Text
+}
+
+// AlikeEntries tells whether all fields of two entries are, one by one.
+func AlikeEntries(a, b api.Entry) bool {
+	return model.Alike(a.Op, b.Op) && AlikeEdits(a.Edit, b.Edit)
 }
 
 // Add follows P13.2's words.

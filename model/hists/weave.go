@@ -72,6 +72,11 @@ func Form(h hist.Hist, e api.Edit) (api.Op, api.Errno) {
 	if err != api.OK {
 		return api.Op{}, err
 	}
+	return upon(doc, e, h.Num+1)
+}
+
+// upon follows the words of P14.2, and of P15.1, of what an edit comes to be upon a document's cells.
+func upon(doc []api.Cell, e api.Edit, num int) (api.Op, api.Errno) {
 	var live []int
 	for p, c := range doc {
 		if !c.Gone {
@@ -81,7 +86,7 @@ func Form(h hist.Hist, e api.Edit) (api.Op, api.Errno) {
 	if e.At > len(live) || e.Kind == 2 && e.Len > len(live)-e.At {
 		return api.Op{}, api.ErrRange
 	}
-	op := api.Op{Name: e.Name, Num: h.Num + 1, Kind: e.Kind}
+	op := api.Op{Name: e.Name, Num: num, Kind: e.Kind}
 	if e.Kind == 1 {
 		op.At, op.Text = append(live, len(doc))[e.At], e.Text
 	} else {
